@@ -143,6 +143,8 @@ func TestP1_4ConvolveLimits(t *testing.T) {
 	gives(t, "both", l, e, []api.Chance{{Value: 0, Weight: "1"}})
 	l, e = card.Convolve([]api.Chance{{Value: 999999998, Weight: "1"}}, one)
 	gives(t, "the greatest value", l, e, most)
+	l, e = card.Convolve([]api.Chance{{Value: -999999998, Weight: "1"}}, []api.Chance{{Value: -1, Weight: "1"}})
+	gives(t, "the least value", l, e, least)
 	l, e = card.Convolve(rare(0, 1, 1000), rare(0, 1, 993))
 	is(t, "error", e, api.OK)
 	is(t, "values", len(l), 3)

@@ -65,7 +65,7 @@ func (a whole) floor(b natural) whole {
 	if a.negative && len(rest) > 0 {
 		quotient = quotient.plus(small(1))
 	}
-	return whole{a.negative && len(quotient) > 0, quotient}
+	return whole{a.negative, quotient}
 }
 
 // fraction is a rational number in lowest terms.

@@ -38,7 +38,7 @@ func decimal(digits string) natural {
 
 func (a natural) text() string {
 	var chunks []string
-	for len(a) > 1 || len(a) == 1 && a[0] >= chunkBase {
+	for len(a) > 1 {
 		quotient, rest := a.dividedByWord(chunkBase)
 		digits := strconv.FormatUint(rest, 10)
 		chunks = append(chunks, strings.Repeat("0", chunkDigits-len(digits))+digits)
@@ -234,13 +234,12 @@ func dividedOnce(words, divisor []uint64) uint64 {
 
 // guess returns a quotient by the three highest words and the two highest words of the divisor: it is right, or one too great.
 func guess(words, divisor []uint64) uint64 {
-	digit, rest, over := ^uint64(0), uint64(0), uint64(0)
-	if words[2] < divisor[1] {
-		digit, rest = bits.Div64(words[2], words[1], divisor[1])
-	} else {
-		rest, over = bits.Add64(words[1], divisor[1], 0)
+	if words[2] >= divisor[1] {
+		// As the divisor has its highest bit, the quotient is the greatest word, or one less.
+		return ^uint64(0)
 	}
-	for over == 0 {
+	digit, rest := bits.Div64(words[2], words[1], divisor[1])
+	for over := uint64(0); over == 0; {
 		high, low := bits.Mul64(digit, divisor[0])
 		if high < rest || high == rest && low <= words[0] {
 			break

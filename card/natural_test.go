@@ -15,19 +15,15 @@ func bigOf(a natural) *big.Int {
 	return x
 }
 
-// randomNatural has words that are often all zeros or all ones, where carries and guesses are at their limits.
+// randomNatural has words that are often at a limit, where carries and guesses are too.
 func randomNatural(random *rand.Rand, most int) natural {
+	limits := []uint64{0, 1, 1<<63 - 1, 1 << 63, 1<<63 + 1, 1<<64 - 2, 1<<64 - 1}
 	a := make(natural, random.Intn(most+1))
 	for i := range a {
-		switch random.Intn(5) {
-		case 0:
-			a[i] = 0
-		case 1:
-			a[i] = ^uint64(0)
-		case 2:
-			a[i] = 1 << random.Intn(64)
-		default:
-			a[i] = random.Uint64()
+		if random.Intn(3) > 0 {
+			a[i] = limits[random.Intn(len(limits))]
+		} else {
+			a[i] = random.Uint64() >> random.Intn(64)
 		}
 	}
 	return a.trimmed()
@@ -64,6 +60,21 @@ func TestNaturalsAgreeWithTheLibrary(t *testing.T) {
 		}
 		quotient, rest := a.divided(b)
 		q, r := new(big.Int).QuoRem(x, y, new(big.Int))
+		same(t, "quotient", quotient, q)
+		same(t, "remainder", rest, r)
+	}
+}
+
+// TestDivisionAtLimits has short numbers, so that the guesses of quotients are wrong as often as possible.
+func TestDivisionAtLimits(t *testing.T) {
+	random := rand.New(rand.NewSource(18))
+	for range 200000 {
+		a, b := randomNatural(random, 5), randomNatural(random, 3)
+		if len(b) < 2 {
+			continue
+		}
+		quotient, rest := a.divided(b)
+		q, r := new(big.Int).QuoRem(bigOf(a), bigOf(b), new(big.Int))
 		same(t, "quotient", quotient, q)
 		same(t, "remainder", rest, r)
 	}
