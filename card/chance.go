@@ -24,7 +24,7 @@ func readChances(l []api.Chance) (odds, api.Errno) {
 	if e := sized(l, api.MaxChances); e != api.OK {
 		return odds{}, e
 	}
-	weights := make([]fraction, len(l))
+	weights := make([]Fraction, len(l))
 	for i, c := range l {
 		x, e := readChance(c)
 		if e == api.OK && i > 0 {
@@ -43,22 +43,22 @@ func readChances(l []api.Chance) (odds, api.Errno) {
 }
 
 // readChance returns the weight of a row, or the first error that the row has by itself.
-func readChance(c api.Chance) (fraction, api.Errno) {
+func readChance(c api.Chance) (Fraction, api.Errno) {
 	if e := within(c.Value, -api.MaxNumber, api.MaxNumber); e != api.OK {
-		return fraction{}, e
+		return Fraction{}, e
 	}
-	weight, e := read(c.Weight)
+	weight, e := Read(c.Weight)
 	if e != api.OK {
-		return fraction{}, e
+		return Fraction{}, e
 	}
 	e = first(unless(weight.num.sign() > 0, api.ErrRange), unless(weight.den.isPowerOfTwo(), api.ErrForm))
 	if e != api.OK {
-		return fraction{}, e
+		return Fraction{}, e
 	}
 	return weight, api.OK
 }
 
-func oddsOf(l []api.Chance, weights []fraction) odds {
+func oddsOf(l []api.Chance, weights []Fraction) odds {
 	var o odds
 	for _, weight := range weights {
 		o.exponent = max(o.exponent, exponentOf(weight))
@@ -71,7 +71,7 @@ func oddsOf(l []api.Chance, weights []fraction) odds {
 }
 
 // exponentOf returns the exponent of a denominator that is a power of 2.
-func exponentOf(weight fraction) int {
+func exponentOf(weight Fraction) int {
 	return weight.den.bitLength() - 1
 }
 
@@ -93,7 +93,7 @@ func Mean(l []api.Chance) (api.Rat, api.Errno) {
 	for i, value := range o.values {
 		sum = sum.plus(wholeOf(value).times(whole{size: o.parts[i]}))
 	}
-	return ratio(sum, powerOfTwo(o.exponent)).text()
+	return ratio(sum, powerOfTwo(o.exponent)).Rat()
 }
 
 // Convolve returns the chances of the sum of two independent values.
@@ -122,7 +122,7 @@ func Convolve(a, b []api.Chance) ([]api.Chance, api.Errno) {
 func chancesOf(parts map[int]natural, exponent int) ([]api.Chance, api.Errno) {
 	var l []api.Chance
 	for _, value := range slices.Sorted(maps.Keys(parts)) {
-		weight, e := ratio(whole{size: parts[value]}, powerOfTwo(exponent)).text()
+		weight, e := ratio(whole{size: parts[value]}, powerOfTwo(exponent)).Rat()
 		if e != api.OK || value < -api.MaxNumber || value > api.MaxNumber {
 			return nil, api.ErrLarge
 		}
@@ -143,5 +143,5 @@ func Atmost(l []api.Chance, n int) (api.Rat, api.Errno) {
 			sum = sum.plus(o.parts[i])
 		}
 	}
-	return ratio(whole{size: sum}, powerOfTwo(o.exponent)).text()
+	return ratio(whole{size: sum}, powerOfTwo(o.exponent)).Rat()
 }

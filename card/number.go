@@ -14,7 +14,7 @@ const (
 
 // Check returns the first error of a number, or OK.
 func Check(a api.Rat) api.Errno {
-	_, e := read(a)
+	_, e := Read(a)
 	return e
 }
 
@@ -23,22 +23,22 @@ func Of(num, den int) (api.Rat, api.Errno) {
 	if den == 0 {
 		return "", api.ErrZero
 	}
-	return fractionOf(num, den).text()
+	return fractionOf(num, den).Rat()
 }
 
 // Add returns the sum.
 func Add(a, b api.Rat) (api.Rat, api.Errno) {
-	return compute(a, b, fraction.plus)
+	return compute(a, b, Fraction.Plus)
 }
 
 // Sub returns the difference.
 func Sub(a, b api.Rat) (api.Rat, api.Errno) {
-	return compute(a, b, fraction.minus)
+	return compute(a, b, Fraction.Minus)
 }
 
 // Mul returns the product.
 func Mul(a, b api.Rat) (api.Rat, api.Errno) {
-	return compute(a, b, fraction.times)
+	return compute(a, b, Fraction.Times)
 }
 
 // Div returns the quotient.
@@ -47,7 +47,7 @@ func Div(a, b api.Rat) (api.Rat, api.Errno) {
 	if e = first(e, unless(!y.num.isZero(), api.ErrZero)); e != api.OK {
 		return "", e
 	}
-	return x.over(y).text()
+	return x.Over(y).Rat()
 }
 
 // Compare returns -1, 0 or 1.
@@ -56,7 +56,7 @@ func Compare(a, b api.Rat) (int, api.Errno) {
 	if e != api.OK {
 		return 0, e
 	}
-	return x.compare(y), api.OK
+	return x.Compare(y), api.OK
 }
 
 // Round returns the nearest multiple of a unit, halves upwards.
@@ -65,9 +65,7 @@ func Round(a, unit api.Rat) (api.Rat, api.Errno) {
 	if e = first(e, unless(y.num.sign() > 0, api.ErrRange)); e != api.OK {
 		return "", e
 	}
-	next := x.over(y).plus(fractionOf(1, 2))
-	times := next.num.floor(next.den)
-	return fraction{times, small(1)}.times(y).text()
+	return x.Over(y).Plus(fractionOf(1, 2)).Floor().Times(y).Rat()
 }
 
 // Root returns the integer part of a square root.
@@ -96,28 +94,28 @@ func Metres(yards api.Rat) (api.Rat, api.Errno) {
 	return scaled(yards, yardTop, yardBottom)
 }
 
-func readTwo(a, b api.Rat) (x, y fraction, e api.Errno) {
-	x, e = read(a)
+func readTwo(a, b api.Rat) (x, y Fraction, e api.Errno) {
+	x, e = Read(a)
 	if e == api.OK {
-		y, e = read(b)
+		y, e = Read(b)
 	}
 	return x, y, e
 }
 
 // compute returns the result of an operation on two numbers.
-func compute(a, b api.Rat, operation func(x, y fraction) fraction) (api.Rat, api.Errno) {
+func compute(a, b api.Rat, operation func(x, y Fraction) Fraction) (api.Rat, api.Errno) {
 	x, y, e := readTwo(a, b)
 	if e != api.OK {
 		return "", e
 	}
-	return operation(x, y).text()
+	return operation(x, y).Rat()
 }
 
 // scaled returns a number times num / den.
 func scaled(a api.Rat, num, den int) (api.Rat, api.Errno) {
-	x, e := read(a)
+	x, e := Read(a)
 	if e != api.OK {
 		return "", e
 	}
-	return x.times(fractionOf(num, den)).text()
+	return x.Times(fractionOf(num, den)).Rat()
 }

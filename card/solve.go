@@ -26,7 +26,7 @@ func readEquations(m [][]api.Rat, b []api.Rat) ([][]whole, api.Errno) {
 	if len(m) > maxRows {
 		return nil, api.ErrMany
 	}
-	rows := make([][]fraction, len(m))
+	rows := make([][]Fraction, len(m))
 	for i, r := range m {
 		e := first(unless(len(r) <= maxRows, api.ErrMany), paired(r, m[0]))
 		if e == api.OK {
@@ -51,7 +51,7 @@ func readEquations(m [][]api.Rat, b []api.Rat) ([][]whole, api.Errno) {
 }
 
 // cleared returns the multiple of a row that has integers without a common divisor.
-func cleared(row []fraction) []whole {
+func cleared(row []Fraction) []whole {
 	multiple := small(1)
 	for _, x := range row {
 		more, _ := x.den.divided(commonDivisor(multiple, x.den))
@@ -127,14 +127,14 @@ func combined[T any](a, b []T, give func(x, y T) T) []T {
 
 // unknowns returns the solution of a triangle, unless one of its numbers has too many digits.
 func unknowns(rows [][]whole) ([]api.Rat, api.Errno) {
-	solution, texts := make([]fraction, len(rows)), make([]api.Rat, len(rows))
+	solution, texts := make([]Fraction, len(rows)), make([]api.Rat, len(rows))
 	for i := len(rows) - 1; i >= 0; i-- {
-		rest := fraction{rows[i][len(rows)], small(1)}
+		rest := Fraction{rows[i][len(rows)], small(1)}
 		for j := i + 1; j < len(rows); j++ {
-			rest = rest.minus(solution[j].times(fraction{rows[i][j], small(1)}))
+			rest = rest.Minus(solution[j].Times(Fraction{rows[i][j], small(1)}))
 		}
-		solution[i] = rest.over(fraction{rows[i][i], small(1)})
-		text, e := solution[i].text()
+		solution[i] = rest.Over(Fraction{rows[i][i], small(1)})
+		text, e := solution[i].Rat()
 		if e != api.OK {
 			return nil, e
 		}

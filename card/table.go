@@ -9,57 +9,67 @@ import (
 
 // point is a breakpoint whose numbers have been read.
 type point struct {
-	x, y fraction
+	x, y Fraction
+}
+
+// Table is a table whose numbers have been read. The zero value has no breakpoints.
+type Table struct {
+	points []point
 }
 
 // CheckTable returns the first error of a table, or OK.
 func CheckTable(t []api.Point) api.Errno {
-	_, e := readTable(t)
+	_, e := ReadTable(t)
 	return e
 }
 
-func readTable(t []api.Point) ([]point, api.Errno) {
+// ReadTable returns a table, or its first error.
+func ReadTable(t []api.Point) (Table, api.Errno) {
 	if e := sized(t, api.MaxPoints); e != api.OK {
-		return nil, e
+		return Table{}, e
 	}
 	points := make([]point, len(t))
 	for i, p := range t {
 		x, y, e := readTwo(p.X, p.Y)
 		if e != api.OK {
-			return nil, e
+			return Table{}, e
 		}
-		if i > 0 && x.compare(points[i-1].x) <= 0 {
-			return nil, api.ErrOrder
+		if i > 0 && x.Compare(points[i-1].x) <= 0 {
+			return Table{}, api.ErrOrder
 		}
 		points[i] = point{x, y}
 	}
-	return points, api.OK
+	return Table{points}, api.OK
 }
 
 // Value returns the value of a table.
 func Value(t []api.Point, x api.Rat) (api.Rat, api.Errno) {
-	points, e := readTable(t)
+	table, e := ReadTable(t)
 	if e != api.OK {
 		return "", e
 	}
-	at, e := read(x)
+	at, e := Read(x)
 	if e != api.OK {
 		return "", e
 	}
-	return valueAt(points, at).text()
+	return table.At(at).Rat()
 }
 
-func valueAt(points []point, x fraction) fraction {
-	next := slices.IndexFunc(points, func(p point) bool { return x.compare(p.x) <= 0 })
+// At returns the value of a table, or 0 if it has no breakpoints.
+func (t Table) At(x Fraction) Fraction {
+	if len(t.points) == 0 {
+		return Fraction{}
+	}
+	next := slices.IndexFunc(t.points, func(p point) bool { return x.Compare(p.x) <= 0 })
 	switch next {
 	case -1:
-		return points[len(points)-1].y
+		return t.points[len(t.points)-1].y
 	case 0:
-		return points[0].y
+		return t.points[0].y
 	}
-	from, to := points[next-1], points[next]
-	part := x.minus(from.x).over(to.x.minus(from.x))
-	return from.y.plus(to.y.minus(from.y).times(part))
+	from, to := t.points[next-1], t.points[next]
+	part := x.Minus(from.x).Over(to.x.Minus(from.x))
+	return from.y.Plus(to.y.Minus(from.y).Times(part))
 }
 
 // Shares divides a whole number by whole weights.
