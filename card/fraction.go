@@ -139,6 +139,11 @@ func (a Fraction) Floor() Fraction {
 	return Fraction{a.num.floor(a.bottom()), small(1)}
 }
 
+// Denominator returns what is below in lowest terms.
+func (a Fraction) Denominator() Fraction {
+	return Fraction{whole{size: a.bottom()}, small(1)}
+}
+
 func isInteger(digits string) bool {
 	return digits == "0" || digits != "" && digits[0] != '0' && strings.Trim(digits, "0123456789") == ""
 }

@@ -58,6 +58,7 @@ func TestFractionsAgreeWithTheLibrary(t *testing.T) {
 		equal(t, "sum", a.Plus(b), new(big.Rat).Add(x, y))
 		equal(t, "difference", a.Minus(b), new(big.Rat).Sub(x, y))
 		equal(t, "product", a.Times(b), new(big.Rat).Mul(x, y))
+		equal(t, "denominator", a.Denominator(), new(big.Rat).SetInt(x.Denom()))
 		if y.Sign() != 0 {
 			equal(t, "quotient", a.Over(b), new(big.Rat).Quo(x, y))
 		}
@@ -83,7 +84,7 @@ func TestFractionsOfNothing(t *testing.T) {
 		{"0 - 0", none.Minus(none), 0}, {"0 - 3", none.Minus(three), -3}, {"3 - 0", three.Minus(none), 3},
 		{"0 * 0", none.Times(none), 0}, {"0 * 3", none.Times(three), 0}, {"3 * 0", three.Times(none), 0},
 		{"0 / 0", none.Over(none), 0}, {"0 / 3", none.Over(three), 0}, {"3 / 0", three.Over(none), 0}, {"3 / (3 - 3)", three.Over(three.Minus(three)), 0},
-		{"the floor of 0", none.Floor(), 0}, {"the floor of 3", three.Floor(), 3}, {"the value of no table", Table{}.At(three), 0},
+		{"the denominator of 0", none.Denominator(), 1}, {"the denominator of 3", three.Denominator(), 1}, {"the floor of 0", none.Floor(), 0}, {"the floor of 3", three.Floor(), 3}, {"the value of no table", Table{}.At(three), 0},
 		{"the least integer", Integer(math.MinInt), math.MinInt}, {"the greatest integer", Integer(math.MaxInt), math.MaxInt},
 	} {
 		equal(t, x.what, x.got, big.NewRat(x.want, 1))
