@@ -117,6 +117,18 @@ func TestP10_5Recover(t *testing.T) {
 			t.Errorf("%q: got %v and the error %d, want %d", rest, got, e, want)
 		}
 	}
+	// A seal has six digits, whatever they are.
+	for i := range 6 {
+		for b := range 256 {
+			digits := []byte("123456")
+			digits[i] = byte(b)
+			want := api.ErrSyntax
+			if strings.ContainsRune("0123456789abcdef", rune(b)) {
+				want = api.ErrCheck
+			}
+			recoveredWith(t, club+"2 undo#"+string(digits)+"\n", one, want)
+		}
+	}
 	// Seals of texts that are no bodies.
 	for _, body := range []string{
 		"", " ", "2", "2 ", "x undo", "undo", " undo", "0 undo", "1001 undo", "02 undo", "+2 undo", "-2 undo", "2  undo", "2 undo ", "2 undo x", "2 Undo", "2 note",
@@ -138,7 +150,10 @@ func TestP10_5Limits(t *testing.T) {
 	log := slowLog(events(undone(1000)...))
 	got, e := recoverLog(log)
 	is(t, "as many events as there may be", len(ok(t, got, e).events), 1000)
-	more, e := union.Append(log, occurrence(1, "undo"))
+	before := slowLog(events(undone(999)...))
+	more, e := union.Append(before, occurrence(1000, "undo"))
+	gives(t, "the last event that there is room for", more, e, before+sealed("1000 undo", mustSeal(before, 999)))
+	more, e = union.Append(log, occurrence(1, "undo"))
 	fails(t, "an event more", more, e, api.ErrMany)
 	more, e = union.Append(log, occurrence(1001, "undo"))
 	fails(t, "an event more that is none", more, e, api.ErrRange)
